@@ -141,12 +141,10 @@ func partNode(tok api.Tok, part api.Part) api.Node {
 	return variable
 }
 
-// numberKey is the node of a key that is a number. One that 64 bits do not hold is a text, as it is under such keys that items stand.
+// numberKey is the node of a key that is a number. Layer 2 lets its digits be of any size: one that 64 bits do not hold is the nearest that they do.
 func numberKey(tok api.Tok, digits string) api.Node {
-	value, err := strconv.ParseInt(digits, 10, 64)
-	if err != nil {
-		return named("text", tok, digits)
-	}
+	// Its error can only be that of the range, beside which the number stands at its bound.
+	value, _ := strconv.ParseInt(digits, 10, 64)
 	n := node("int", tok)
 	n.Int = int(value)
 	return n

@@ -470,10 +470,31 @@ func TestP3_1_Parts(t *testing.T) {
 	checkExpr(t, `"$a"`, "parts(var'a')")
 	checkExpr(t, `"b$a c$d"`, "parts(text'b' var'a' text' c' var'd')")
 	checkExpr(t, `"$a[0]$a[12]$a[-7]"`, "parts(index(var'a' int) index(var'a' int12) index(var'a' int-7))")
-	checkExpr(t, `"$a[9223372036854775807]$a[-9223372036854775808]"`, "parts(index(var'a' int9223372036854775807) index(var'a' int-9223372036854775808))")
-	checkExpr(t, `"$a[9223372036854775808]$a[-9223372036854775809]"`, "parts(index(var'a' text'9223372036854775808') index(var'a' text'-9223372036854775809'))")
 	checkExpr(t, `"$a[k]$a[$b]$a->p."`, "parts(index(var'a' text'k') index(var'a' var'b') field'p'(var'a') text'.')")
 	checkExpr(t, "<<<A\n\"$a\"\nA . \"$b\"[0]", "bin'.'(parts(text'\"' var'a' text'\"') index(parts(var'b') int))")
+}
+
+// TestP3_1_FarKeys: a number in a text's brackets is an int node, whatever its size; what 64 bits do not hold is the nearest that they do.
+func TestP3_1_FarKeys(t *testing.T) {
+	const most, least = "9223372036854775807", "-9223372036854775808"
+	noughts := strings.Repeat("0", 60000)
+	for _, c := range []struct{ key, want string }{
+		{"9223372036854775806", "9223372036854775806"}, {most, most}, {"9223372036854775808", most}, {"9223372036854775809", most},
+		{"-9223372036854775807", "-9223372036854775807"}, {least, least}, {"-9223372036854775809", least}, {"-9223372036854775810", least},
+		{"10000000000000000000", most}, {"18446744073709551615", most}, {"18446744073709551616", most}, {"18446744073709551623", most}, {"99999999999999999999", most}, {"1" + noughts, most},
+		{"-10000000000000000000", least}, {"-18446744073709551616", least}, {"-18446744073709551623", least}, {"-99999999999999999999", least}, {"-1" + noughts, least},
+	} {
+		index := "index(var'a' int" + c.want + ")"
+		checkExpr(t, `"$a[`+c.key+`]"`, "parts("+index+")")
+		checkExpr(t, `"b$a[`+c.key+`]c"`, "parts(text'b' "+index+" text'c')")
+		checkExpr(t, "<<<A\n$a["+c.key+"]\nA", "parts("+index+")")
+	}
+	// What looks like such a number, but stands where a text does, stays a text.
+	checkExpr(t, `"$a[0] [99999999999999999999]"`, "parts(index(var'a' int) text' [99999999999999999999]')")
+	checkExpr(t, `$a['99999999999999999999']`, "index(var'a' text'99999999999999999999')")
+	checkExpr(t, `$a["-9223372036854775809"]`, "index(var'a' text'-9223372036854775809')")
+	// Out of a text no number is above 64 bits.
+	checkMarked(t, api.ErrNum, "$a[^9223372036854775808];")
 }
 
 // TestP3_1_Layer2: a fault of the tokens is told, wherever it is.
